@@ -390,9 +390,13 @@ func earlier(a, b string) bool {
 	return len(a) < len(b) || len(a) == len(b) && a < b
 }
 
-// plainWays returns the ways to all blocks that are reached, found by making ways better until nothing changes.
-func plainWays(g []impl.Block) map[string]string {
-	ways := map[string]string{g[0].Name: ""}
+// plainWays returns the ways to all blocks that are reached without coming by the avoided one, found by making ways better until nothing changes.
+// An empty name avoids none.
+func plainWays(g []impl.Block, avoided string) map[string]string {
+	ways := map[string]string{}
+	if g[0].Name != avoided {
+		ways[g[0].Name] = ""
+	}
 	for changed := true; changed; {
 		changed = false
 		for _, b := range g {
@@ -405,7 +409,7 @@ func plainWays(g []impl.Block) map[string]string {
 				if len(b.Next) == 2 {
 					choices += "lr"[i : i+1]
 				}
-				if old, ok := ways[to]; !ok || earlier(choices, old) {
+				if old, ok := ways[to]; to != avoided && (!ok || earlier(choices, old)) {
 					ways[to], changed = choices, true
 				}
 			}
@@ -437,7 +441,7 @@ func TestRunsOfLargerGraphs(t *testing.T) {
 	source := rand.New(rand.NewSource(2))
 	for range 3000 {
 		g := someGraph(source, 1+source.Intn(26), 1+source.Intn(8))
-		ways, stop, canStop := plainWays(g), "", false
+		ways, stop, canStop := plainWays(g, ""), "", false
 		for _, b := range g {
 			want, ok := ways[b.Name]
 			wantWay(t, g, b.Name, want, ok)
