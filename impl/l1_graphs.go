@@ -209,26 +209,39 @@ func PrevOf(g []Block, name string) (string, bool) {
 	return joinNames(prev), true
 }
 
-// reachedFrom yields the nodes that can be come to from one, each once, the nearer ones first.
-func reachedFrom(entry *node) iter.Seq[*node] {
+// spreadFrom yields some nodes and all others that follow from these, from those, and so on, each once, in the order in which they are found.
+func spreadFrom(starts []*node, following func(*node) []*node) iter.Seq[*node] {
 	return func(yield func(*node) bool) {
 		var seen [MaxBlocks]bool
-		seen[entry.index] = true
-		queue := []*node{entry}
+		var queue []*node
+		join := func(nodes []*node) {
+			for _, n := range nodes {
+				if !seen[n.index] {
+					seen[n.index] = true
+					queue = append(queue, n)
+				}
+			}
+		}
+		join(starts)
 		for len(queue) > 0 {
 			n := queue[0]
 			queue = queue[1:]
 			if !yield(n) {
 				return
 			}
-			for _, to := range n.end.targets() {
-				if !seen[to.index] {
-					seen[to.index] = true
-					queue = append(queue, to)
-				}
-			}
+			join(following(n))
 		}
 	}
+}
+
+// reachedFrom yields the nodes that can be come to from one, each once, the nearer ones first.
+func reachedFrom(entry *node) iter.Seq[*node] {
+	return spreadFrom([]*node{entry}, func(n *node) []*node { return n.end.targets() })
+}
+
+// inOrder returns the nodes of a sequence in the order of the graph.
+func inOrder(nodes iter.Seq[*node]) []*node {
+	return slices.SortedFunc(nodes, func(a, b *node) int { return a.index - b.index })
 }
 
 // reachedNodes returns the nodes that can be come to, in the order of the graph, and whether the graph is valid.
@@ -237,12 +250,7 @@ func reachedNodes(g []Block) ([]*node, bool) {
 	if !ok {
 		return nil, false
 	}
-	var reached []*node
-	for n := range reachedFrom(nodes[0]) {
-		reached = append(reached, n)
-	}
-	slices.SortFunc(reached, func(a, b *node) int { return a.index - b.index })
-	return reached, true
+	return inOrder(reachedFrom(nodes[0])), true
 }
 
 // ReachedOf returns the blocks that can be come to.

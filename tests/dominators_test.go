@@ -485,13 +485,18 @@ func TestAvoidingWaysOfAllSmallGraphs(t *testing.T) {
 	})
 }
 
+// someSize returns how many blocks a graph of a round has: mostly a few, and in each third round more of them, up to all.
+func someSize(source *rand.Rand, round int) int {
+	if round%3 == 0 {
+		return 9 + source.Intn(18)
+	}
+	return 4 + source.Intn(5)
+}
+
 func TestDominatorsOfLargerGraphs(t *testing.T) {
 	source := rand.New(rand.NewSource(3))
 	for round := range 600 {
-		size := 4 + source.Intn(5)
-		if round%3 == 0 {
-			size = 9 + source.Intn(18)
-		}
+		size := someSize(source, round)
 		g := someGraph(source, size, 1+source.Intn(8))
 		p := plainTreeOf(g)
 		wantTree(t, g, p.text(g[0].Name))
